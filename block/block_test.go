@@ -135,6 +135,9 @@ func TestCopy(t *testing.T) {
 	if !ok || string(b.Text) != "abcd" || !b.End || !is(a, 5, true, 4) || !is(c, 0, false, 0) {
 		t.Errorf("%v, %v", b, ok)
 	}
+	if b, _, _ := a.Copy().On(more(5, "", true)); string(b.Text) != "abxx" {
+		t.Errorf("the copy's bytes are the first one's: %q", b.Text)
+	}
 	if _, _, fault := c.On(headers(5, "abcdefg", false, true)); fault != proto {
 		t.Errorf("the copy's limit: %v", fault)
 	}
@@ -181,6 +184,9 @@ func TestSplit(t *testing.T) {
 				t.Errorf("Split(%q, %d), frame %d: %v", c.text, c.most, i, f)
 			}
 		}
+	}
+	if l, e := Split(1, nil, true, 1); len(l) != 1 || l[0].Stream != 1 || e != api.OK {
+		t.Errorf("Split of the stream 1: %v, %d", l, e)
 	}
 	for _, c := range [][2]int{{0, 5}, {-1, 5}, {api.MaxStream + 1, 5}, {1, 0}, {1, -1}, {1, api.MaxFrame + 1}, {math.MinInt, 1}, {1, math.MaxInt}} {
 		if l, e := Split(c[0], []byte("abc"), false, c[1]); len(l) != 0 || e != api.ErrRange {

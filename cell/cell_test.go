@@ -113,6 +113,10 @@ func TestOpenRefuses(t *testing.T) {
 			t.Errorf("Open of the slot %d: %v, %d", i, l, e)
 		}
 	}
+	one, _ := frame.Frame{Type: 9, Payload: make([]byte, 18)}.Bytes()
+	if l, e := Open(append(one, 0), 10); len(l) != 0 || e != api.ErrForm {
+		t.Errorf("Open with a byte behind: %v, %d", l, e)
+	}
 	// without a filler, but whole
 	whole, _ := frame.Frame{Type: 9, Payload: make([]byte, 19)}.Bytes()
 	if l, e := Open(whole, 10); len(l) != 1 || e != api.OK {

@@ -74,6 +74,7 @@ func TestKnownBlocks(t *testing.T) {
 		{"40 00 00 be", plain("", "", "", ""), []static.Field{field("", "")}},
 		{"40 01 61 01 62 be 7e 01 63 be bf", plain("a", "b", "a", "b", "a", "c", "a", "c", "a", "b"), []static.Field{field("a", "c"), field("a", "b")}},
 		{"40 01 61 01 62 0f 2f 01 64 1f 2f 01 64", append(plain("a", "b", "a", "d"), Line{field("a", "d"), true}), []static.Field{field("a", "b")}},
+		{"40 01 61 01 62 40 01 63 01 64 7f 00 01 65", plain("a", "b", "c", "d", "a", "e"), []static.Field{field("a", "e"), field("c", "d"), field("a", "b")}},
 		{"20", nil, nil},
 		{"20 3f e1 1f 82", plain(":method", "GET"), nil},
 		{"8286 8441 8cf1 e3c2 e5f2 3a6b a0ab 90f4 ff", plain(":method", "GET", ":scheme", "http", ":path", "/", ":authority", "www.example.com"), []static.Field{field(":authority", "www.example.com")}},

@@ -192,6 +192,14 @@ func same(a, b []frame.Frame) bool { return slices.EqualFunc(a, b, frame.Frame.E
 
 var ack = frame.Frame{Type: frame.Settings, Flags: payload.Ack}
 
+func TestNumbers(t *testing.T) {
+	for i, kind := range []int{Headed, Interim, Part, Trailed, Done, Failed} {
+		if kind != i+1 {
+			t.Errorf("kind %d is %d", i+1, kind)
+		}
+	}
+}
+
 // P25.1
 func TestNewAndPreface(t *testing.T) {
 	want := append([]byte("PRI * HTTP/2.0\r\n\r\nSM\r\n\r\n"), 0, 0, 12, 4, 0, 0, 0, 0, 0, 0, 1, 0, 0, 0, 0, 0, 2, 0, 0, 0, 0)
@@ -328,7 +336,8 @@ func TestResponses(t *testing.T) {
 		t.Errorf("the tenant 0's came at %d", d[0].Tick)
 	}
 	// they are over: what comes is passed over
-	feed(t, x, api.OK, head(3, true, ":status", "200"), data(1, true, "x"), reset(3, 0), update(3, 5), update(1, api.MaxWindow))
+	wrong := frame.Frame{Type: frame.Priority, Stream: 3, Payload: []byte{1}}
+	feed(t, x, api.OK, head(3, true, ":status", "200"), data(1, true, "x"), reset(3, 0), update(3, 5), update(1, api.MaxWindow), update(3, 0), wrong)
 	got(t, x, 1, want...)
 	got(t, x, 0, headed(0, 204), done(0))
 	for _, o := range ticks(t, x, 4) {
@@ -557,6 +566,26 @@ func TestAsked(t *testing.T) {
 	got(t, x, 0, failed(0, api.FlowControl), failed(1, api.FlowControl), failed(2, api.FlowControl), failed(3, api.FlowControl))
 }
 
+// P25.2: what was asked once holds, till something else is asked.
+func TestAskedHolds(t *testing.T) {
+	x := endpoint(t, config)
+	submit(t, x, 0, 200, 0)
+	feed(t, x, api.OK, asks([2]int{4, 64}, [2]int{3, 2}), asks([2]int{1, 0}))
+	kinds := func(want ...int) {
+		t.Helper()
+		for _, kind := range want {
+			if l := ticks(t, x, 2); l[0].Kind != kind {
+				t.Errorf("%v, not %d", l[0], kind)
+			}
+		}
+	}
+	kinds(outbound.Opened, outbound.Sent, outbound.Nothing, outbound.Nothing)
+	feed(t, x, api.OK, asks([2]int{4, api.Window0}))
+	kinds(outbound.Sent, outbound.Sent, outbound.Ended, outbound.Nothing) // of the windows, no more; one stream alone
+	feed(t, x, api.OK, asks([2]int{3, 4}))
+	kinds(outbound.Ended)
+}
+
 // P25.2: windows of the backend's.
 func TestUpdates(t *testing.T) {
 	x := endpoint(t, outbound.Config{Tenants: 64, Cell: 256, Bytes: 20000, Items: 50, Streams: 10})
@@ -643,6 +672,16 @@ func TestGivenBack(t *testing.T) {
 	}
 	if x.owed != 0 {
 		t.Errorf("owed: %d", x.owed)
+	}
+}
+
+// P25.2: where they end, nothing more is given, though we still send.
+func TestNothingGivenAtTheEnd(t *testing.T) {
+	x := opened(t, 100)
+	text := strings.Repeat("x", api.MaxFrame)
+	feed(t, x, api.OK, head(1, false, ":status", "200"), data(1, false, text), data(1, true, text))
+	if l := ticks(t, x, 1); l[0] != (outbound.Did{Kind: outbound.Sent, ID: 1, N: 63}) {
+		t.Errorf("%v", l)
 	}
 }
 

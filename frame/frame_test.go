@@ -20,6 +20,17 @@ func unhex(s string) []byte {
 	return b
 }
 
+func TestNumbers(t *testing.T) {
+	for i, kind := range []int{Data, Headers, Priority, Reset, Settings, Promise, Ping, Goaway, Update, Continuation} {
+		if kind != i {
+			t.Errorf("type %d is %d", i, kind)
+		}
+	}
+	if HeadSize != 9 {
+		t.Errorf("HeadSize: %d", HeadSize)
+	}
+}
+
 // P9.1
 func TestBytes(t *testing.T) {
 	for _, c := range []struct {

@@ -64,6 +64,14 @@ func body(id int, end bool, n, size int) frame.Frame {
 	return f
 }
 
+func TestNumbers(t *testing.T) {
+	for i, kind := range []int{Nothing, Opened, Sent, Ended, Cut, Gave} {
+		if kind != i {
+			t.Errorf("kind %d is %d", i, kind)
+		}
+	}
+}
+
 var right = Config{2, 16, 100, 10, 10}
 
 // P24.1

@@ -136,8 +136,9 @@ func TestCopy(t *testing.T) {
 	if c.Waiting() != 5 || c.Needs() != 4 {
 		t.Errorf("the copy: %d wait", c.Waiting())
 	}
+	c.Feed(b[5:7])
 	r.Feed([]byte{9, 9, 9})
-	if l, e := c.Feed(b[5:]); len(l) != 1 || !l[0].Equal(ping) || e != api.OK {
+	if l, e := c.Feed(b[7:]); len(l) != 1 || !l[0].Equal(ping) || e != api.OK {
 		t.Errorf("the copy: %v, %d", l, e)
 	}
 	if r.Waiting() != 8 {

@@ -92,6 +92,16 @@ func TestBytesAndPlaces(t *testing.T) {
 			t.Errorf("Places(%d, %d): %v", c.tenant, c.tenants, got)
 		}
 	}
+	far := []endpoint.Out{{Tick: 65, Slot: []byte("a")}, {Tick: -1, Slot: []byte("b")}, {Tick: 64, Slot: []byte("c")}}
+	if got := Places(far, 0, 65); len(got) != 0 {
+		t.Errorf("Places of 65 tenants: %v", got)
+	}
+	if got := Places(far, 0, 64); !slices.Equal(got, []Place{{64, 2, 1}}) {
+		t.Errorf("Places of 64 tenants: %v", got)
+	}
+	if got := Places(far, 2, 3); !slices.Equal(got, []Place{{65, 0, 1}, {-1, 1, 1}}) {
+		t.Errorf("Places below 0: %v", got)
+	}
 	b := Bytes(l)
 	b[0] = 'x'
 	if string(l[0].Control) != "abc" {

@@ -59,7 +59,7 @@ func TestSpendAndCan(t *testing.T) {
 		e       api.Errno
 		can     bool
 	}{
-		{10, 0, api.OK, true}, {10, 10, api.OK, true}, {10, 11, api.ErrFull, false}, {0, 0, api.OK, true}, {0, 1, api.ErrFull, false},
+		{10, 0, api.OK, true}, {10, 1, api.OK, true}, {1, 1, api.OK, true}, {10, 2, api.OK, true}, {10, 10, api.OK, true}, {10, 11, api.ErrFull, false}, {0, 0, api.OK, true}, {0, 1, api.ErrFull, false},
 		{api.MaxWindow, api.MaxWindow, api.OK, true}, {10, api.MaxWindow, api.ErrFull, false},
 		{10, -1, api.ErrRange, false}, {10, api.MaxWindow + 1, api.ErrRange, false}, {10, math.MaxInt, api.ErrRange, false}, {10, math.MinInt, api.ErrRange, false},
 	} {
